@@ -183,7 +183,7 @@ func (p Pasture) isOpen(s Spot, side int64) bool {
 	return !p.isWall(s, side) && !p.isFenced(s, side)
 }
 
-// withHurdle returns p with or without a hurdle on a side that is no wall.
+// withHurdle returns p with or without a hurdle on a side, which may be a wall only in the east or the south.
 func (p Pasture) withHurdle(s Spot, side int64, on bool) Pasture {
 	at, kept := keptAt(s, side)
 	rows := &p.East
