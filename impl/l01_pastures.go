@@ -246,8 +246,11 @@ func checkCells(p Pasture, list ...Spot) error {
 	return nil
 }
 
-func checkGrass(grass int64) error {
-	if grass < 0 || grass > MaxGrass {
+func checkGrass(grass int64) error { return checkUpTo(grass, MaxGrass) }
+
+// checkUpTo checks that a number is 0 to most.
+func checkUpTo(number, most int64) error {
+	if number < 0 || number > most {
 		return errRange
 	}
 	return nil

@@ -1,6 +1,9 @@
 package tests
 
 import (
+	"go/ast"
+	"go/parser"
+	"go/token"
 	"math/rand"
 	"reflect"
 	"strings"
@@ -75,6 +78,75 @@ func sameValue(a, b any) bool {
 		return v.Type() == w.Type()
 	}
 	return reflect.DeepEqual(a, b)
+}
+
+// scribble writes over all that a slice has, its unused capacity included.
+func scribble(value any) {
+	switch list := value.(type) {
+	case []impl.Spot:
+		overwrite(list, spotAt(77, 77))
+	case []impl.Goat:
+		overwrite(list, impl.Goat{At: spotAt(77, 77), Eats: 77})
+	case []int64:
+		overwrite(list, 77)
+	case [][2]int64:
+		overwrite(list, [2]int64{77, 77})
+	case [][]impl.Spot:
+		for _, inner := range list {
+			scribble(inner)
+		}
+	}
+}
+
+func overwrite[T any](list []T, value T) {
+	list = list[:cap(list)]
+	for i := range list {
+		list[i] = value
+	}
+}
+
+func scribbleAll(called map[string][]any) {
+	for _, list := range called {
+		for _, value := range list {
+			scribble(value)
+		}
+	}
+}
+
+// wantEqualResults wants calls to return what they returned before, also behind changes of their first results.
+func wantEqualResults(t *testing.T, name string, call func() map[string][]any) {
+	t.Helper()
+	first, second := call(), call()
+	if !reflect.DeepEqual(first, second) {
+		t.Fatalf("%s: results differ: %v and %v", name, first, second)
+	}
+	scribbleAll(first)
+	if third := call(); !reflect.DeepEqual(third, second) {
+		t.Fatalf("%s: results differ behind a change: %v and %v", name, third, second)
+	}
+}
+
+// wantAllCalled wants a call of each exported function of a file of the program, and of no other one.
+func wantAllCalled(t *testing.T, file string, called map[string][]any) {
+	t.Helper()
+	parsed, err := parser.ParseFile(token.NewFileSet(), "../impl/"+file, nil, 0)
+	if err != nil {
+		t.Fatal(err)
+	}
+	count := 0
+	for _, d := range parsed.Decls {
+		f, ok := d.(*ast.FuncDecl)
+		if !ok || f.Recv != nil || !f.Name.IsExported() {
+			continue
+		}
+		count++
+		if called[f.Name.Name] == nil {
+			t.Errorf("%s is not called", f.Name.Name)
+		}
+	}
+	if count != len(called) {
+		t.Errorf("%d functions, %d called", count, len(called))
+	}
 }
 
 func cellsOf(p impl.Pasture) []impl.Spot {

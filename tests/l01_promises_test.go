@@ -1,9 +1,6 @@
 package tests
 
 import (
-	"go/ast"
-	"go/parser"
-	"go/token"
 	"math"
 	"math/rand"
 	"reflect"
@@ -60,25 +57,7 @@ func callAll(v arguments) map[string][]any {
 }
 
 func TestAllFunctionsAreCalled(t *testing.T) {
-	file, err := parser.ParseFile(token.NewFileSet(), "../impl/l01_pastures.go", nil, 0)
-	if err != nil {
-		t.Fatal(err)
-	}
-	called := callAll(arguments{})
-	count := 0
-	for _, d := range file.Decls {
-		f, ok := d.(*ast.FuncDecl)
-		if !ok || f.Recv != nil || !f.Name.IsExported() {
-			continue
-		}
-		count++
-		if called[f.Name.Name] == nil {
-			t.Errorf("%s is not called", f.Name.Name)
-		}
-	}
-	if count != len(called) {
-		t.Errorf("%d functions, %d called", count, len(called))
-	}
+	wantAllCalled(t, "l01_pastures.go", callAll(arguments{}))
 }
 
 // someArguments returns ordinary and invalid arguments, and the extremes of each.
@@ -127,33 +106,7 @@ func wildPasture(r *rand.Rand) impl.Pasture {
 // P1: every function returns, and returns equal results for equal arguments, also behind changes of its first ones.
 func TestEqualResults(t *testing.T) {
 	for i, v := range someArguments() {
-		first, second := callAll(v), callAll(v)
-		if !reflect.DeepEqual(first, second) {
-			t.Fatalf("arguments %d: results differ: %v and %v", i, first, second)
-		}
-		for _, list := range first {
-			for _, value := range list {
-				scribble(value)
-			}
-		}
-		if third := callAll(v); !reflect.DeepEqual(third, second) {
-			t.Fatalf("arguments %d: results differ behind a change: %v and %v", i, third, second)
-		}
-	}
-}
-
-// scribble writes over all that a slice has, its unused capacity included.
-func scribble(value any) {
-	switch list := value.(type) {
-	case []impl.Spot:
-		list = list[:cap(list)]
-		for i := range list {
-			list[i] = spotAt(77, 77)
-		}
-	case [][]impl.Spot:
-		for _, inner := range list {
-			scribble(inner)
-		}
+		wantEqualResults(t, "arguments "+strconv.Itoa(i), func() map[string][]any { return callAll(v) })
 	}
 }
 
