@@ -2,8 +2,10 @@
 package impl
 
 import (
+	"cmp"
 	"errors"
 	"iter"
+	"maps"
 	"math/bits"
 	"slices"
 	"strconv"
@@ -68,6 +70,7 @@ var codeNames = [...]string{
 var (
 	errInvalid  = errors.New("invalid")
 	errRange    = errors.New("range")
+	errLimit    = errors.New("limit")
 	errState    = errors.New("state")
 	errSyntax   = errors.New("syntax")
 	errNotFound = errors.New("not found")
@@ -80,6 +83,8 @@ func codeOf(err error) int64 {
 		return ErrInvalid
 	case errors.Is(err, errRange):
 		return ErrRange
+	case errors.Is(err, errLimit):
+		return ErrLimit
 	case errors.Is(err, errState):
 		return ErrState
 	case errors.Is(err, errSyntax):
@@ -103,9 +108,25 @@ func (s Spot) east() Spot  { return Spot{s.X + 1, s.Y} }
 func (s Spot) south() Spot { return Spot{s.X, s.Y + 1} }
 func (s Spot) west() Spot  { return Spot{s.X - 1, s.Y} }
 
-// before reports whether s is ordered ahead of t: by Y, and then by X.
-func (s Spot) before(t Spot) bool {
-	return s.Y < t.Y || s.Y == t.Y && s.X < t.X
+// compare is less than 0 if s is ordered ahead of t: by Y, and then by X.
+func (s Spot) compare(t Spot) int {
+	return cmp.Or(cmp.Compare(s.Y, t.Y), cmp.Compare(s.X, t.X))
+}
+
+func (s Spot) before(t Spot) bool { return s.compare(t) < 0 }
+
+// setOf returns the cells of a list, of which some may come twice.
+func setOf(list []Spot) map[Spot]bool {
+	set := map[Spot]bool{}
+	for _, s := range list {
+		set[s] = true
+	}
+	return set
+}
+
+// inOrder returns the cells under which a map keeps something.
+func inOrder[V any](kept map[Spot]V) []Spot {
+	return slices.SortedFunc(maps.Keys(kept), Spot.compare)
 }
 
 // overSides returns the steps over the sides of a cell, by side.
@@ -358,10 +379,13 @@ func BesideOf(p Pasture, s Spot) ([]Spot, int64) {
 	return slices.Collect(p.beside(s)), OK
 }
 
-// stepsFrom returns the least number of steps from a cell to each cell of its yard.
-func (p Pasture) stepsFrom(s Spot) map[Spot]int64 {
-	steps := map[Spot]int64{s: 0}
-	queue := []Spot{s}
+// stepsFrom returns the least number of steps from any of some cells to each cell of their yards.
+func (p Pasture) stepsFrom(list ...Spot) map[Spot]int64 {
+	steps := map[Spot]int64{}
+	for _, s := range list {
+		steps[s] = 0
+	}
+	queue := slices.Clone(list)
 	for len(queue) > 0 {
 		at := queue[0]
 		queue = queue[1:]
@@ -383,16 +407,7 @@ func YardOf(p Pasture, s Spot) ([]Spot, int64) {
 	return p.yardOf(s), OK
 }
 
-func (p Pasture) yardOf(s Spot) []Spot {
-	steps := p.stepsFrom(s)
-	yard := make([]Spot, 0, len(steps))
-	for cell := range p.cells() {
-		if _, in := steps[cell]; in {
-			yard = append(yard, cell)
-		}
-	}
-	return yard
-}
+func (p Pasture) yardOf(s Spot) []Spot { return inOrder(p.stepsFrom(s)) }
 
 // YardsOf returns all yards.
 func YardsOf(p Pasture) ([][]Spot, int64) {
@@ -423,8 +438,12 @@ func SameYard(p Pasture, a, b Spot) (bool, int64) {
 	if err := checkCells(p, a, b); err != nil {
 		return false, codeOf(err)
 	}
+	return p.sameYard(a, b), OK
+}
+
+func (p Pasture) sameYard(a, b Spot) bool {
 	_, same := p.stepsFrom(a)[b]
-	return same, OK
+	return same
 }
 
 // GrassIn returns the sum of all grass.
@@ -456,10 +475,7 @@ func SidesOf(p Pasture, list []Spot) (int64, int64) {
 	if err := checkCells(p, list...); err != nil {
 		return 0, codeOf(err)
 	}
-	inside := map[Spot]bool{}
-	for _, s := range list {
-		inside[s] = true
-	}
+	inside := setOf(list)
 	count := int64(0)
 	for s := range inside {
 		for _, step := range overSides() {
@@ -498,12 +514,17 @@ func WayBetween(p Pasture, a, b Spot) ([]Spot, int64) {
 	if err != nil {
 		return nil, codeOf(err)
 	}
-	way := []Spot{a}
-	for at := a; at != b; {
+	return p.wayDown(a, steps), OK
+}
+
+// wayDown returns of the shortest ways from a cell to where no step is left the one whose cells come first.
+func (p Pasture) wayDown(from Spot, steps map[Spot]int64) []Spot {
+	way := []Spot{from}
+	for at := from; steps[at] > 0; {
 		at = p.nearerOf(at, steps)
 		way = append(way, at)
 	}
-	return way, OK
+	return way
 }
 
 // nearerOf returns the first cell beside a cell from which there are fewer steps.

@@ -85,6 +85,8 @@ func scribble(value any) {
 	switch list := value.(type) {
 	case []impl.Spot:
 		overwrite(list, spotAt(77, 77))
+	case []impl.Hurdle:
+		overwrite(list, eastOf(77, 77))
 	case []impl.Goat:
 		overwrite(list, impl.Goat{At: spotAt(77, 77), Eats: 77})
 	case []int64:
