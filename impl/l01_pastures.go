@@ -74,6 +74,7 @@ var (
 	errState    = errors.New("state")
 	errSyntax   = errors.New("syntax")
 	errNotFound = errors.New("not found")
+	errBudget   = errors.New("budget")
 )
 
 // codeOf returns the code of an error of the package.
@@ -91,6 +92,8 @@ func codeOf(err error) int64 {
 		return ErrSyntax
 	case errors.Is(err, errNotFound):
 		return ErrNotFound
+	case errors.Is(err, errBudget):
+		return ErrBudget
 	}
 	return OK
 }
@@ -172,6 +175,17 @@ func (p Pasture) cells() iter.Seq[Spot] {
 	}
 }
 
+// cellsThat returns, ordered, all cells of which something holds.
+func (p Pasture) cellsThat(holds func(Spot) bool) []Spot {
+	var list []Spot
+	for s := range p.cells() {
+		if holds(s) {
+			list = append(list, s)
+		}
+	}
+	return list
+}
+
 // beside goes through the cells to which one can go from a cell, in the order of its sides.
 func (p Pasture) beside(s Spot) iter.Seq[Spot] {
 	return func(yield func(Spot) bool) {
@@ -182,6 +196,9 @@ func (p Pasture) beside(s Spot) iter.Seq[Spot] {
 		}
 	}
 }
+
+// canStep reports whether one can go from a cell to another one by a single step.
+func (p Pasture) canStep(s, t Spot) bool { return slices.Contains(slices.Collect(p.beside(s)), t) }
 
 func (p Pasture) isWall(s Spot, side int64) bool {
 	return !p.hasCell(over(s, side))

@@ -6,8 +6,10 @@ import (
 	"go/token"
 	"math/rand"
 	"reflect"
+	"runtime"
 	"strings"
 	"testing"
+	"time"
 
 	"loop.example/g01345/impl"
 )
@@ -87,6 +89,8 @@ func scribble(value any) {
 		overwrite(list, spotAt(77, 77))
 	case []impl.Hurdle:
 		overwrite(list, eastOf(77, 77))
+	case []impl.Stake:
+		overwrite(list, stakeAt(77, 77, 77))
 	case []impl.Goat:
 		overwrite(list, impl.Goat{At: spotAt(77, 77), Eats: 77})
 	case []int64:
@@ -126,6 +130,18 @@ func wantEqualResults(t *testing.T, name string, call func() map[string][]any) {
 	if third := call(); !reflect.DeepEqual(third, second) {
 		t.Fatalf("%s: results differ behind a change: %v and %v", name, third, second)
 	}
+}
+
+// wantNoMoreGoroutines wants goroutines to end that have not been there before.
+func wantNoMoreGoroutines(t *testing.T, before int) {
+	t.Helper()
+	for range 1000 {
+		if runtime.NumGoroutine() <= before {
+			return
+		}
+		time.Sleep(time.Millisecond)
+	}
+	t.Errorf("%d goroutines, and %d before", runtime.NumGoroutine(), before)
 }
 
 // wantAllCalled wants a call of each exported function of a file of the program, and of no other one.

@@ -8,7 +8,6 @@ import (
 	"strconv"
 	"strings"
 	"testing"
-	"time"
 
 	"loop.example/g01345/impl"
 )
@@ -133,13 +132,7 @@ func TestStaysBesideEachOther(t *testing.T) {
 	for range 20 {
 		expect(t, "BestStay", want...)(<-done...)
 	}
-	for range 1000 {
-		if runtime.NumGoroutine() <= before {
-			return
-		}
-		time.Sleep(time.Millisecond)
-	}
-	t.Errorf("%d goroutines, and %d before", runtime.NumGoroutine(), before)
+	wantNoMoreGoroutines(t, before)
 }
 
 // withGrowth are the functions with a growth, and withPasture those with a pasture.
