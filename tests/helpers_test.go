@@ -7,6 +7,7 @@ import (
 	"math/rand"
 	"reflect"
 	"runtime"
+	"slices"
 	"strings"
 	"testing"
 	"time"
@@ -75,11 +76,19 @@ func sameValue(a, b any) bool {
 	if whole, ok := b.(int); ok {
 		b = int64(whole)
 	}
+	if h, ok := b.(impl.Herd); ok {
+		g, ok := a.(impl.Herd)
+		return ok && sameLists(g, h)
+	}
 	v, w := reflect.ValueOf(a), reflect.ValueOf(b)
 	if v.Kind() == reflect.Slice && w.Kind() == reflect.Slice && v.Len() == 0 && w.Len() == 0 {
 		return v.Type() == w.Type()
 	}
 	return reflect.DeepEqual(a, b)
+}
+
+func sameLists(a, b impl.Herd) bool {
+	return slices.Equal(a.Names, b.Names) && slices.Equal(a.Eats, b.Eats) && slices.Equal(a.Foes, b.Foes)
 }
 
 // scribble writes over all that a slice has, its unused capacity included.
@@ -101,6 +110,14 @@ func scribble(value any) {
 		for _, inner := range list {
 			scribble(inner)
 		}
+	case [][]int64:
+		for _, inner := range list {
+			scribble(inner)
+		}
+	case impl.Herd:
+		overwrite(list.Names, "scribble")
+		overwrite(list.Eats, 77)
+		overwrite(list.Foes, 77)
 	}
 }
 
@@ -319,5 +336,22 @@ func invalidPastures() map[string]impl.Pasture {
 		"full, south wall":         change(full, func(p *impl.Pasture) { p.South[9] = 1 }),
 		"full, high bit east":      change(full, func(p *impl.Pasture) { p.East[0] = 1 << 15 }),
 		"full, high bit south":     change(full, func(p *impl.Pasture) { p.South[0] = 1 << 10 }),
+	}
+}
+
+// eachLonger goes through a text, and all texts with at most so many signs more.
+func eachLonger(text, signs string, more int, try func(text string)) {
+	try(text)
+	for i := 0; more > 0 && i < len(signs); i++ {
+		eachLonger(text+signs[i:i+1], signs, more-1, try)
+	}
+}
+
+// eachChange goes through all texts in which one byte is replaced by another word, or comes twice.
+func eachChange(text string, words []string, try func(text string)) {
+	for i := range len(text) {
+		for _, put := range append(words, text[i:i+1]+text[i:i+1]) {
+			try(text[:i] + put + text[i+1:])
+		}
 	}
 }

@@ -87,16 +87,10 @@ func wantRead(t *testing.T, text string) {
 }
 
 func TestAllShortTextsOfFences(t *testing.T) {
-	var try func(text string, more int)
-	try = func(text string, more int) {
-		wantRead(t, text)
-		for i := 0; more > 0 && i < 6; i++ {
-			try(text+"09,|_ "[i:i+1], more-1)
-		}
-	}
-	try("", 6)
+	try := func(text string) { wantRead(t, text) }
+	eachLonger("", "09,|_ ", 6, try)
 	for _, first := range []string{"0,0|", "9,9_", "0,0| 1,2_"} {
-		try(first, 5)
+		eachLonger(first, "09,|_ ", 5, try)
 	}
 }
 
@@ -106,10 +100,6 @@ func TestChangedTextsOfFences(t *testing.T) {
 	for range 200 {
 		p := randomPasture(r, 1+r.Intn(4), 2+r.Intn(4), 3)
 		text := fenceByHand(sidesThat(p, true))
-		for i := range len(text) {
-			for _, put := range []string{"", "0", "1", "9", ",", "|", "_", " ", "\n", "-", text[i:i+1] + text[i:i+1]} {
-				wantRead(t, text[:i]+put+text[i+1:])
-			}
-		}
+		eachChange(text, []string{"", "0", "1", "9", ",", "|", "_", " ", "\n", "-"}, func(changed string) { wantRead(t, changed) })
 	}
 }

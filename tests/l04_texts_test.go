@@ -84,11 +84,7 @@ func TestChangedTextsOfGrowth(t *testing.T) {
 			g.Table[i] = int8(r.Intn(101))
 		}
 		text := growthByHand(g)
-		for i := range len(text) {
-			for _, put := range []string{"", "0", "1", "9", ",", " ", "\n", "-", "+", text[i:i+1] + text[i:i+1]} {
-				wantGrowth(t, text[:i]+put+text[i+1:])
-			}
-		}
+		eachChange(text, []string{"", "0", "1", "9", ",", " ", "\n", "-", "+"}, func(changed string) { wantGrowth(t, changed) })
 		wantGrowth(t, text+"0")
 		wantGrowth(t, "1"+text)
 	}

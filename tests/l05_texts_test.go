@@ -93,16 +93,10 @@ func TestReachesOfTexts(t *testing.T) {
 }
 
 func TestAllShortTextsOfStakes(t *testing.T) {
-	var try func(text string, more int)
-	try = func(text string, more int) {
-		wantStakes(t, text)
-		for i := 0; more > 0 && i < 6; i++ {
-			try(text+"02,/ -"[i:i+1], more-1)
-		}
-	}
-	try("", 6)
+	try := func(text string) { wantStakes(t, text) }
+	eachLonger("", "02,/ -", 6, try)
 	for _, first := range []string{"0,0/", "9,9/20", "0,0/1 1,2/3"} {
-		try(first, 5)
+		eachLonger(first, "02,/ -", 5, try)
 	}
 }
 
@@ -111,10 +105,6 @@ func TestChangedTextsOfStakes(t *testing.T) {
 	r := rand.New(rand.NewSource(56))
 	for range 200 {
 		text := stakesByHand(someStakesOn(r, grassy(10, 10, func(x, y int) int { return 0 }), 1+r.Intn(12)))
-		for i := range len(text) {
-			for _, put := range []string{"", "0", "1", "9", ",", "/", " ", "\n", "-", text[i:i+1] + text[i:i+1]} {
-				wantStakes(t, text[:i]+put+text[i+1:])
-			}
-		}
+		eachChange(text, []string{"", "0", "1", "9", ",", "/", " ", "\n", "-"}, func(changed string) { wantStakes(t, changed) })
 	}
 }
