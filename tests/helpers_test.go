@@ -100,6 +100,10 @@ func scribble(value any) {
 		overwrite(list, eastOf(77, 77))
 	case []impl.Stake:
 		overwrite(list, stakeAt(77, 77, 77))
+	case []impl.Meadow:
+		overwrite(list, impl.Meadow{Grass: 77, Grows: 77, Most: 77})
+	case []impl.Sight:
+		overwrite(list, impl.Sight{Day: 77, At: spotAt(77, 77)})
 	case []impl.Goat:
 		overwrite(list, impl.Goat{At: spotAt(77, 77), Eats: 77})
 	case []int64:
